@@ -299,6 +299,24 @@ func TestNothingIsAsked(t *testing.T) {
 	}
 }
 
+// TestValuesOnceAShell: what a search with one shell more asks beside is what it asks in that shell.
+func TestValuesOnceAShell(t *testing.T) {
+	for seed, cut := range cuts() {
+		m, q := sampled(sample.From(80000+seed), cut[0], cut[1], 25)
+		l, before := m.of(q), map[int]int{}
+		for n := range 35 {
+			o := watched(t, l, seed)
+			probe.Few(o.source(), q, 9, n)
+			for j, times := range o.values {
+				if times > before[j]+1 {
+					t.Fatalf("11.7: %v: with %d shells Values(%d) is asked %d times, with one less %d times", cut, n, j, times, before[j])
+				}
+			}
+			before = o.values
+		}
+	}
+}
+
 // holds: the three searches answer as the second writing does, of a watched source and of one of Of, and ask what they may.
 func holds(t *testing.T, what string, l look, seed int, ks, rs, shells []int) {
 	t.Helper()
